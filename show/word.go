@@ -1,0 +1,67 @@
+package show
+
+import (
+	"strings"
+
+	"quartermaster/api"
+)
+
+// word writes the parts of a word. quoted: it stands in a ${ between ".
+func (p *printer) word(w []api.Part, quoted bool) {
+	if !quoted && len(w) > 0 && w[0].Kind == api.PText && (strings.HasPrefix(w[0].Text, "#") || strings.HasPrefix(w[0].Text, "%")) {
+		// Without the quotes a # would begin a remark, and a # or a % might
+		// lengthen the operator before it.
+		p.put("''")
+	}
+	for _, x := range w {
+		if !p.enter() {
+			return
+		}
+		switch {
+		case x.Kind == api.PText:
+			// A $ is itself before the end of a line that goes on.
+			p.put(strings.ReplaceAll(x.Text, "$", "$\\\n"))
+		case x.Kind == api.PQuote && quoted:
+			p.escaped(x.Text)
+		case x.Kind == api.PQuote:
+			p.put("'", strings.ReplaceAll(x.Text, "'", `'\''`), "'")
+		case x.Quoted && !quoted:
+			p.put(`"`)
+			p.construct(x)
+			p.put(`"`)
+		default:
+			p.construct(x)
+		}
+		p.depth--
+	}
+}
+
+// escaped writes bytes within a ${ between ", where there are no quotes.
+func (p *printer) escaped(s string) {
+	for i := range len(s) {
+		if strings.IndexByte("\\$\"'`}#%", s[i]) >= 0 {
+			p.put(`\`)
+		}
+		p.put(s[i : i+1])
+	}
+}
+
+// construct writes what begins with a $.
+func (p *printer) construct(x api.Part) {
+	switch x.Kind {
+	case api.PVar:
+		if x.Op == "L" {
+			p.put("${#", x.Name, "}")
+			return
+		}
+		p.put("${", x.Name, x.Op)
+		if x.Op != "" {
+			p.word(x.Word, x.Quoted)
+		}
+		p.put("}")
+	case api.PCalc:
+		p.put("$((", x.Text, "))")
+	case api.PSub:
+		p.put("$(", x.Text, ")")
+	}
+}
