@@ -95,8 +95,8 @@ func split(l []piece) [][]piece {
 // fits reports whether s, which is long enough, begins with what the pieces
 // of a run match.
 func fits(run []piece, s string) bool {
-	for i, x := range run {
-		if !x.takes(s[i]) {
+	for i := range run {
+		if !run[i].takes(s[i]) {
 			return false
 		}
 	}

@@ -16,7 +16,7 @@ type piece struct {
 }
 
 // takes reports whether a piece that isn't a star matches the byte b.
-func (x piece) takes(b byte) bool {
+func (x *piece) takes(b byte) bool {
 	switch x.kind {
 	case literal:
 		return x.char == b
