@@ -10,18 +10,27 @@ import (
 	"quartermaster/api"
 )
 
-var pairs = []api.Pair{{Name: "a", Value: "9"}, {Name: "a", Value: "5"}, {Name: "neg", Value: " -3\n"}, {Name: "none", Value: ""}, {Name: "space", Value: " \t"}, {Name: "word", Value: "x"}, {Name: "sum", Value: "1+1"}, {Name: "plus", Value: "+1"}, {Name: "minus", Value: "-"}, {Name: "apart", Value: "- 1"}, {Name: "big", Value: "18446744073709551617"}, {Name: "low", Value: "-9223372036854775808"}, {Name: "inner", Value: "1 2"}, {Name: strings.Repeat("n", 60), Value: "7"}}
+var pairs = []api.Pair{{Name: "a", Value: "9"}, {Name: "a", Value: "5"}, {Name: "neg", Value: " -3\n"}, {Name: "none", Value: ""},
+	{Name: "space", Value: " \t"}, {Name: "word", Value: "x"}, {Name: "sum", Value: "1+1"}, {Name: "plus", Value: "+1"},
+	{Name: "minus", Value: "-"}, {Name: "apart", Value: "- 1"}, {Name: "big", Value: "18446744073709551617"},
+	{Name: "low", Value: "-9223372036854775808"}, {Name: "inner", Value: "1 2"}, {Name: strings.Repeat("n", 60), Value: "7"}}
 
 func TestEval(t *testing.T) {
 	for s, want := range map[string]int{
 		"1 + 2 * 3": 7, "(1 + 2) * 3": 9, "1-2-3": -4, "100/10/5": 2, "7%4%2": 1, "2*3%4": 2, "1<<2<<3": 32, "1<<2+1": 8, "16>>2>>1": 2,
-		"1||0&&0": 1, "0&&1||1": 1, "1|2^3&1": 3, "6^3|8": 13, "1|2^2": 1, "6&3^1": 3, "1&3==3": 1, "4&1==1": 0, "1==1<2": 1, "3>2>1": 0, "2==2==1": 1, "1<2<<1": 1, "1<2==1": 1, "5<=5": 1, "5>=6": 0, "5!=5": 0, "1<1": 0,
-		"-3": -3, "--3": 3, "+-+3": -3, "!0": 1, "!5": 0, "!!5": 1, "~0": -1, "~-1": 0, "-~5": 6, "!-0": 1, "2--3": 5, "2- -3": 5, "2*-3": -6, "-2*3": -6, "!0+1": 2, "1!=!1": 1, "1==!0": 1, "-1>>1": -1, "! = 1 ": 0,
+		"1||0&&0": 1, "0&&1||1": 1, "1|2^3&1": 3, "6^3|8": 13, "1|2^2": 1, "6&3^1": 3, "1&3==3": 1, "4&1==1": 0, "1==1<2": 1, "3>2>1": 0,
+		"2==2==1": 1, "1<2<<1": 1, "1<2==1": 1, "5<=5": 1, "5>=6": 0, "5!=5": 0, "1<1": 0,
+		"-3": -3, "--3": 3, "+-+3": -3, "!0": 1, "!5": 0, "!!5": 1, "~0": -1, "~-1": 0, "-~5": 6, "!-0": 1, "2--3": 5, "2- -3": 5, "2*-3": -6,
+		"-2*3": -6, "!0+1": 2, "1!=!1": 1, "1==!0": 1, "-1>>1": -1, "! = 1 ": 0,
 		"7/2": 3, "-7/2": -3, "7/-2": -3, "-7%3": -1, "7%-3": 1, "-6%3": 0,
-		"1<<63": math.MinInt64, "1<<64": 0, "1<<-1": 0, "1>>64": 0, "1>>-1": 0, "-1>>64": -1, "-5>>-1": -1, "-1<<64": 0, "-8>>1": -4, "0>>99": 0, "-1>>63": -1,
-		"9223372036854775807+1": math.MinInt64, "9223372036854775808": math.MinInt64, "18446744073709551616": 0, "18446744073709551617": 1, "36893488147419103239": 7, "-9223372036854775808/-1": math.MinInt64, "-9223372036854775808%-1": 0, "9223372036854775807*2": -2, "-9223372036854775808": math.MinInt64,
-		" \t\n1\n": 1, "007": 7, "00": 0,
-		"a": 5, "a+a": 10, "-a": -5, "neg": -3, "none": 0, "space": 0, "unknown": 0, "_x1": 0, "big": 1, "low": math.MinInt64, strings.Repeat("n", 60): 7, "a*neg": -15,
+		"1<<63": math.MinInt64, "1<<64": 0, "1<<-1": 0, "1>>64": 0, "1>>-1": 0, "-1>>64": -1, "-5>>-1": -1, "-1<<64": 0, "-8>>1": -4, "0>>99": 0,
+		"-1>>63":                -1,
+		"9223372036854775807+1": math.MinInt64, "9223372036854775808": math.MinInt64, "18446744073709551616": 0, "18446744073709551617": 1,
+		"36893488147419103239": 7, "-9223372036854775808/-1": math.MinInt64, "-9223372036854775808%-1": 0, "9223372036854775807*2": -2,
+		"-9223372036854775808": math.MinInt64,
+		" \t\n1\n":             1, "007": 7, "00": 0,
+		"a": 5, "a+a": 10, "-a": -5, "neg": -3, "none": 0, "space": 0, "unknown": 0, "_x1": 0, "big": 1, "low": math.MinInt64,
+		strings.Repeat("n", 60): 7, "a*neg": -15,
 		"0||7": 1, "0&&7": 0, "3&&4": 1, "-1||0": 1, "((((1))))": 1, "(1)+(2)": 3,
 	} {
 		if strings.Contains(s, "! =") {
@@ -40,11 +49,20 @@ func TestErrors(t *testing.T) {
 	deep := strings.Repeat("(", api.MaxNest)
 	shut := strings.Repeat(")", api.MaxNest)
 	for s, want := range map[string]api.Errno{
-		"": api.ErrSyntax, " ": api.ErrSyntax, "1 2": api.ErrSyntax, "1a": api.ErrSyntax, "a 1": api.ErrSyntax, "1+": api.ErrSyntax, "*1": api.ErrSyntax, "(1": api.ErrSyntax, "1)": api.ErrSyntax, "()": api.ErrSyntax, "1 = 1": api.ErrSyntax, "!=1": api.ErrSyntax, "1&&&1": api.ErrSyntax, "1 + + ": api.ErrSyntax, "1.5": api.ErrSyntax, "$a": api.ErrSyntax, "1\x00": api.ErrSyntax, "1\r": api.ErrSyntax, "a=1": api.ErrSyntax, "1,2": api.ErrSyntax, "0x1": api.ErrSyntax, "1<>2": api.ErrSyntax, "1(2)": api.ErrSyntax, "\v1": api.ErrSyntax,
-		"word": api.ErrSyntax, "sum": api.ErrSyntax, "plus": api.ErrSyntax, "minus": api.ErrSyntax, "apart": api.ErrSyntax, "inner": api.ErrSyntax, strings.Repeat("n", 61): api.ErrSyntax,
-		"1/0": api.ErrZero, "1%0": api.ErrZero, "0&&1/0": api.ErrZero, "1||1%0": api.ErrZero, "1/0+": api.ErrSyntax, "1/0 word": api.ErrSyntax, "1/0*word": api.ErrSyntax, "1/none": api.ErrZero, "1/(1-1)": api.ErrZero,
-		deep + "1" + shut: api.OK, deep + "(1" + shut + ")": api.ErrLong, deep + "(": api.ErrLong, deep + "(@": api.ErrLong, deep + "1(": api.ErrSyntax, deep + "@(": api.ErrSyntax, "word" + deep + "(": api.ErrSyntax, "1 " + deep + "(": api.ErrSyntax, deep + "1" + shut + "+(1)": api.OK, "1/0+" + deep + "(": api.ErrLong, "1)" + deep + "(": api.ErrSyntax, "-" + deep + "-(": api.ErrLong,
-		strings.Repeat(" ", api.MaxWord-1) + "1": api.OK, strings.Repeat(" ", api.MaxWord) + "1": api.ErrLong, strings.Repeat("@", api.MaxWord+1): api.ErrLong, strings.Repeat("-", api.MaxWord-1) + "1": api.OK, strings.Repeat("1+", 2047) + "1": api.OK,
+		"": api.ErrSyntax, " ": api.ErrSyntax, "1 2": api.ErrSyntax, "1a": api.ErrSyntax, "a 1": api.ErrSyntax, "1+": api.ErrSyntax,
+		"*1": api.ErrSyntax, "(1": api.ErrSyntax, "1)": api.ErrSyntax, "()": api.ErrSyntax, "1 = 1": api.ErrSyntax, "!=1": api.ErrSyntax,
+		"1&&&1": api.ErrSyntax, "1 + + ": api.ErrSyntax, "1.5": api.ErrSyntax, "$a": api.ErrSyntax, "1\x00": api.ErrSyntax, "1\r": api.ErrSyntax,
+		"a=1": api.ErrSyntax, "1,2": api.ErrSyntax, "0x1": api.ErrSyntax, "1<>2": api.ErrSyntax, "1(2)": api.ErrSyntax, "\v1": api.ErrSyntax,
+		"word": api.ErrSyntax, "sum": api.ErrSyntax, "plus": api.ErrSyntax, "minus": api.ErrSyntax, "apart": api.ErrSyntax, "inner": api.ErrSyntax,
+		strings.Repeat("n", 61): api.ErrSyntax,
+		"1/0":                   api.ErrZero, "1%0": api.ErrZero, "0&&1/0": api.ErrZero, "1||1%0": api.ErrZero, "1/0+": api.ErrSyntax,
+		"1/0 word": api.ErrSyntax,
+		"1/0*word": api.ErrSyntax, "1/none": api.ErrZero, "1/(1-1)": api.ErrZero,
+		deep + "1" + shut: api.OK, deep + "(1" + shut + ")": api.ErrLong, deep + "(": api.ErrLong, deep + "(@": api.ErrLong,
+		deep + "1(": api.ErrSyntax, deep + "@(": api.ErrSyntax, "word" + deep + "(": api.ErrSyntax, "1 " + deep + "(": api.ErrSyntax,
+		deep + "1" + shut + "+(1)": api.OK, "1/0+" + deep + "(": api.ErrLong, "1)" + deep + "(": api.ErrSyntax, "-" + deep + "-(": api.ErrLong,
+		strings.Repeat(" ", api.MaxWord-1) + "1": api.OK, strings.Repeat(" ", api.MaxWord) + "1": api.ErrLong,
+		strings.Repeat("@", api.MaxWord+1): api.ErrLong, strings.Repeat("-", api.MaxWord-1) + "1": api.OK, strings.Repeat("1+", 2047) + "1": api.OK,
 	} {
 		got, err := Eval(s, pairs)
 		if err != want || err != api.OK && got != 0 {

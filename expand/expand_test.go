@@ -60,10 +60,15 @@ func TestGet(t *testing.T) {
 		want   string
 		ok     bool
 	}{
-		{nil, 0, "?", "0", true}, {nil, -7, "?", "-7", true}, {nil, 127, "?", "127", true}, {nil, 0, "#", "0", true}, {[]string{"sh"}, 0, "#", "0", true}, {[]string{"sh", "a", "b"}, 0, "#", "2", true},
-		{[]string{"sh", "one"}, 0, "0", "sh", true}, {[]string{"sh", "one"}, 0, "1", "one", true}, {[]string{"sh", "one"}, 0, "2", "", false}, {nil, 0, "0", "", false}, {[]string{"sh", ""}, 0, "1", "", true}, {[]string{"sh", "one"}, 0, "0001", "one", true}, {[]string{"sh", "one"}, 0, "00001", "", false}, {many, 0, "9999", "far", true}, {many, 0, "10000", "", false},
-		{nil, 0, "@", "", true}, {[]string{"sh"}, 0, "*", "", true}, {[]string{"sh", "a b", "", "c"}, 0, "@", "a b  c", true}, {[]string{"sh", "a", "b"}, 0, "*", "a b", true},
-		{nil, 0, "one", "1", true}, {nil, 0, "e", "", true}, {nil, 0, "none", "", false}, {nil, 0, "", "", false}, {nil, 0, "-1", "", false}, {nil, 0, "a b", "", false}, {nil, 0, "$", "", false}, {nil, 0, "1a", "", false},
+		{nil, 0, "?", "0", true}, {nil, -7, "?", "-7", true}, {nil, 127, "?", "127", true}, {nil, 0, "#", "0", true},
+		{[]string{"sh"}, 0, "#", "0", true}, {[]string{"sh", "a", "b"}, 0, "#", "2", true},
+		{[]string{"sh", "one"}, 0, "0", "sh", true}, {[]string{"sh", "one"}, 0, "1", "one", true}, {[]string{"sh", "one"}, 0, "2", "", false},
+		{nil, 0, "0", "", false}, {[]string{"sh", ""}, 0, "1", "", true}, {[]string{"sh", "one"}, 0, "0001", "one", true},
+		{[]string{"sh", "one"}, 0, "00001", "", false}, {many, 0, "9999", "far", true}, {many, 0, "10000", "", false},
+		{nil, 0, "@", "", true}, {[]string{"sh"}, 0, "*", "", true}, {[]string{"sh", "a b", "", "c"}, 0, "@", "a b  c", true},
+		{[]string{"sh", "a", "b"}, 0, "*", "a b", true},
+		{nil, 0, "one", "1", true}, {nil, 0, "e", "", true}, {nil, 0, "none", "", false}, {nil, 0, "", "", false}, {nil, 0, "-1", "", false},
+		{nil, 0, "a b", "", false}, {nil, 0, "$", "", false}, {nil, 0, "1a", "", false},
 	} {
 		if got, ok := New(fresh(t), x.args, x.status).Get(x.name); got != x.want || ok != x.ok {
 			t.Errorf("P1301: Get(%q) with %d arguments: %q, %v", x.name, len(x.args), got, ok)
@@ -76,15 +81,25 @@ func TestGet(t *testing.T) {
 
 func TestWord(t *testing.T) {
 	for s, want := range map[string]string{
-		"": "", "a": "a", "a'b'\"c\"": "a|'bc'", "''": "''", "a$one": "a|1", "$one$one": "1|1", "$none": "", "$e": "", "\"$e\"": "''", "\"$none\"": "''", "a$e'b'": "a|'b'", "\"a$one b\"": "'a'|'1'|' b'", "$sp": "a b", "\"$sp\"": "'a b'", "$star": "a*",
+		"": "", "a": "a", "a'b'\"c\"": "a|'bc'", "''": "''", "a$one": "a|1", "$one$one": "1|1", "$none": "", "$e": "", "\"$e\"": "''",
+		"\"$none\"": "''", "a$e'b'": "a|'b'", "\"a$one b\"": "'a'|'1'|' b'", "$sp": "a b", "\"$sp\"": "'a b'", "$star": "a*",
 		"$?": "3", "$#": "2", "$0": "sh", "$1": "p q", "$2": "r", "$3": "", "$@": "p q r", "\"$*\"": "'p q r'", "${01}": "p q", "${12345}": "",
 		"${#path}": "8", "\"${#path}\"": "'8'", "${#none}": "0", "${#e}": "0", "${#@}": "5", "${#1}": "3", "${#}": "2",
-		"${one-x}": "1", "${one:-x}": "1", "${e-x}": "", "${e:-x}": "x", "${none-x}": "x", "${none:-x}": "x", "${none-}": "", "\"${e-x}\"": "''", "\"${none-}\"": "''", "\"${e:-a 'b'}\"": "'a 'b''", "${e:-w 'v'}": "w |'v'", "${none-$one'a'${e:-b}}": "1|'a'|b", "\"${none-$one}x\"": "'1'|'x'", "${none-''}": "''", "${none-\"\"$e}": "", "${none-\"$e\"}": "''", "x${none-\"$e\"}": "x|''", "\"${none-$one$sp}\"": "'1a b'",
-		"${one+x}": "x", "${one:+x}": "x", "${e+x}": "x", "${e:+x}": "", "${none+x}": "", "${none:+x}": "", "\"${none+x}\"": "''", "\"${one+x$one}\"": "'x1'", "${one+${none-y}}": "y", "${1+x}${9+y}": "x",
+		"${one-x}": "1", "${one:-x}": "1", "${e-x}": "", "${e:-x}": "x", "${none-x}": "x", "${none:-x}": "x", "${none-}": "", "\"${e-x}\"": "''",
+		"\"${none-}\"": "''", "\"${e:-a 'b'}\"": "'a 'b''", "${e:-w 'v'}": "w |'v'", "${none-$one'a'${e:-b}}": "1|'a'|b",
+		"\"${none-$one}x\"": "'1'|'x'", "${none-''}": "''", "${none-\"\"$e}": "", "${none-\"$e\"}": "''", "x${none-\"$e\"}": "x|''",
+		"\"${none-$one$sp}\"": "'1a b'",
+		"${one+x}":            "x", "${one:+x}": "x", "${e+x}": "x", "${e:+x}": "", "${none+x}": "", "${none:+x}": "", "\"${none+x}\"": "''",
+		"\"${one+x$one}\"": "'x1'", "${one+${none-y}}": "y", "${1+x}${9+y}": "x",
 		"${one?x}": "1", "${one:?x}": "1", "${e?x}": "", "${one=x}": "1", "${e=x}": "", "${?-x}": "3", "${#-x}": "2", "${@-x}": "p q r",
-		"${path%.*}": "/a/b.c", "${path%%.*}": "/a/b", "${path#*/}": "a/b.c.d", "${path##*/}": "b.c.d", "\"${path##*/}\"": "'/a/b.c.d'", "\"${path#/a/}\"": "'b.c.d'", "${path%x}": "/a/b.c.d", "${path%}": "/a/b.c.d", "${none%x}": "", "\"${none#x}\"": "''", "${path%$one}": "/a/b.c.d", "${star%\\*}": "a", "${star%'*'}": "a", "${star%*}": "a*", "${star%%*}": "", "${star#$star}": "*", "${star#\"$star\"}": "", "${path%.${none-d}}": "/a/b.c", "${1%q}": "p ",
-		"$((1+2))": "3", "\"$((1+2))\"": "'3'", "a$((one+1))b": "a|2|b", "$(($one+1))": "2", "$(($#*10+$?))": "23", "$((-3))": "-3", "$(($none+1))": "1", "$((1$none2))": "1", "$((1$e))": "1", "$(($one$one+0))": "11", "$((e))": "0", "$(($#$#))": "22", "$((9223372036854775807+1))": "-9223372036854775808",
-		"${none-$((1+1))}": "2", "${one+$((1+1))'x'}": "2|'x'",
+		"${path%.*}": "/a/b.c", "${path%%.*}": "/a/b", "${path#*/}": "a/b.c.d", "${path##*/}": "b.c.d", "\"${path##*/}\"": "'/a/b.c.d'",
+		"\"${path#/a/}\"": "'b.c.d'", "${path%x}": "/a/b.c.d", "${path%}": "/a/b.c.d", "${none%x}": "", "\"${none#x}\"": "''",
+		"${path%$one}": "/a/b.c.d", "${star%\\*}": "a", "${star%'*'}": "a", "${star%*}": "a*", "${star%%*}": "", "${star#$star}": "*",
+		"${star#\"$star\"}": "", "${path%.${none-d}}": "/a/b.c", "${1%q}": "p ",
+		"$((1+2))": "3", "\"$((1+2))\"": "'3'", "a$((one+1))b": "a|2|b", "$(($one+1))": "2", "$(($#*10+$?))": "23", "$((-3))": "-3",
+		"$(($none+1))": "1", "$((1$none2))": "1", "$((1$e))": "1", "$(($one$one+0))": "11", "$((e))": "0", "$(($#$#))": "22",
+		"$((9223372036854775807+1))": "-9223372036854775808",
+		"${none-$((1+1))}":           "2", "${one+$((1+1))'x'}": "2|'x'",
 	} {
 		s2 := New(fresh(t), []string{"sh", "p q", "r"}, 3)
 		got, err := s2.Word(parse(t, s))
@@ -97,10 +112,18 @@ func TestWord(t *testing.T) {
 func TestErrors(t *testing.T) {
 	long := strings.Repeat("x", api.MaxWord)
 	for s, want := range map[string]api.Errno{
-		"${none?m}": api.ErrUnset, "${none:?}": api.ErrUnset, "${e:?m}": api.ErrUnset, "a${9?}": api.ErrUnset, "${1=x}": api.OK, "${9=x}": api.ErrArg, "${@:=x}": api.OK, "${?=x}": api.OK, "${none-${none?}}": api.ErrUnset, "${one-${none?}}": api.OK, "${none+${none?}}": api.OK, "${one:?${none?}}": api.OK, "${one%${none?}}": api.ErrUnset,
-		"$((1/0))": api.ErrZero, "$((1+))": api.ErrSyntax, "$((${one}))": api.ErrSyntax, "$((1 $))": api.ErrSyntax, "$(($$))": api.ErrSyntax, "$(())": api.ErrSyntax, "$((word))": api.ErrSyntax, "$(($word))": api.ErrSyntax, "$((1/0${))": api.ErrSyntax, "$(($e))": api.ErrSyntax,
+		"${none?m}": api.ErrUnset, "${none:?}": api.ErrUnset, "${e:?m}": api.ErrUnset, "a${9?}": api.ErrUnset, "${1=x}": api.OK,
+		"${9=x}": api.ErrArg, "${@:=x}": api.OK, "${?=x}": api.OK, "${none-${none?}}": api.ErrUnset, "${one-${none?}}": api.OK,
+		"${none+${none?}}": api.OK, "${one:?${none?}}": api.OK, "${one%${none?}}": api.ErrUnset,
+		"$((1/0))": api.ErrZero, "$((1+))": api.ErrSyntax, "$((${one}))": api.ErrSyntax, "$((1 $))": api.ErrSyntax, "$(($$))": api.ErrSyntax,
+		"$(())": api.ErrSyntax, "$((word))": api.ErrSyntax, "$(($word))": api.ErrSyntax, "$((1/0${))": api.ErrSyntax, "$(($e))": api.ErrSyntax,
 		"$(a)": api.ErrSyntax, "${none-$(a)}": api.ErrSyntax, "${one-$(a)}": api.OK,
-		long: api.OK, long + "x": api.ErrLong, "'" + long + "'x": api.ErrLong, long + "$e''": api.OK, long + "$one": api.ErrLong, "${none-" + long + "}": api.OK, "${none-" + long + "x}": api.ErrLong, "x${none-" + long + "}": api.ErrLong, "${one%" + long + "x}": api.ErrLong, "${one-" + long + "x}": api.OK, long + "x${none?}": api.ErrLong, "${none?}" + long + "x": api.ErrUnset, "${none-" + long + "x${none?}}": api.ErrLong, "${none=" + long + "}": api.OK, "$((" + strings.Repeat(" ", api.MaxWord) + "1))": api.ErrLong, "$((" + strings.Repeat("$one+", 3000) + "1))": api.ErrLong, "$((" + strings.Repeat("$path", 3000) + "${))": api.ErrSyntax, "$((" + strings.Repeat("$none", 3000) + " 1))": api.OK,
+		long: api.OK, long + "x": api.ErrLong, "'" + long + "'x": api.ErrLong, long + "$e''": api.OK, long + "$one": api.ErrLong,
+		"${none-" + long + "}": api.OK, "${none-" + long + "x}": api.ErrLong, "x${none-" + long + "}": api.ErrLong,
+		"${one%" + long + "x}": api.ErrLong, "${one-" + long + "x}": api.OK, long + "x${none?}": api.ErrLong, "${none?}" + long + "x": api.ErrUnset,
+		"${none-" + long + "x${none?}}": api.ErrLong, "${none=" + long + "}": api.OK, "$((" + strings.Repeat(" ", api.MaxWord) + "1))": api.ErrLong,
+		"$((" + strings.Repeat("$one+", 3000) + "1))": api.ErrLong, "$((" + strings.Repeat("$path", 3000) + "${))": api.ErrSyntax,
+		"$((" + strings.Repeat("$none", 3000) + " 1))":                            api.OK,
 		"${none-" + strings.Repeat("${none-", 39) + "x" + strings.Repeat("}", 40): api.OK,
 	} {
 		v := fresh(t)
@@ -130,7 +153,9 @@ func TestNest(t *testing.T) {
 	for i, x := range []struct {
 		w    []api.Part
 		want api.Errno
-	}{{nested(40), api.OK}, {nested(41), api.ErrLong}, {circle, api.ErrLong}, {[]api.Part{{Kind: api.PVar, Name: "one", Op: "-", Word: circle}}, api.OK}, {[]api.Part{{Kind: api.PVar, Name: "one", Op: "", Word: circle}}, api.OK}} {
+	}{{nested(40), api.OK}, {nested(41), api.ErrLong}, {circle, api.ErrLong},
+		{[]api.Part{{Kind: api.PVar, Name: "one", Op: "-", Word: circle}}, api.OK},
+		{[]api.Part{{Kind: api.PVar, Name: "one", Op: "", Word: circle}}, api.OK}} {
 		if _, err := New(fresh(t), nil, 0).Word(x.w); err != x.want {
 			t.Errorf("P1302: %d: error %d", i, err)
 		}
@@ -142,9 +167,16 @@ func TestOddParts(t *testing.T) {
 		w    []api.Part
 		want string
 	}{
-		{[]api.Part{{Kind: api.PText, Text: "a", Name: "n", Op: "o", Quoted: true, Word: nested(1)}}, "a"}, {[]api.Part{{Kind: api.PText}, {Kind: api.PQuote}, {Kind: api.PText}}, "''"},
-		{[]api.Part{{Kind: 0}}, "!2"}, {[]api.Part{{Kind: 9, Text: "a"}}, "!2"}, {[]api.Part{{Kind: api.PSub}}, "!2"}, {[]api.Part{{Kind: api.PVar, Name: "one", Op: ":"}}, "!2"}, {[]api.Part{{Kind: api.PVar, Name: "one", Op: ":%"}}, "!2"}, {[]api.Part{{Kind: api.PVar, Name: "one", Op: ":L"}}, "!2"}, {[]api.Part{{Kind: api.PVar, Name: "one", Op: "/"}}, "!2"}, {[]api.Part{{Kind: api.PVar, Name: "one", Op: "%%%"}}, "!2"}, {[]api.Part{{Kind: api.PVar, Name: "one", Op: "::-"}}, "!2"},
-		{[]api.Part{{Kind: api.PVar, Name: "no name", Op: "-", Word: []api.Part{{Kind: api.PText, Text: "x"}}}}, "x"}, {[]api.Part{{Kind: api.PVar, Name: "no name", Op: "="}}, "!1"}, {[]api.Part{{Kind: api.PVar}}, ""}, {[]api.Part{{Kind: api.PVar, Name: "zero", Op: "=", Word: []api.Part{{Kind: api.PText, Text: "\x00"}}}}, "!1"}, {[]api.Part{{Kind: api.PVar, Name: "", Op: "?"}}, "!16"},
+		{[]api.Part{{Kind: api.PText, Text: "a", Name: "n", Op: "o", Quoted: true, Word: nested(1)}}, "a"},
+		{[]api.Part{{Kind: api.PText}, {Kind: api.PQuote}, {Kind: api.PText}}, "''"},
+		{[]api.Part{{Kind: 0}}, "!2"}, {[]api.Part{{Kind: 9, Text: "a"}}, "!2"}, {[]api.Part{{Kind: api.PSub}}, "!2"},
+		{[]api.Part{{Kind: api.PVar, Name: "one", Op: ":"}}, "!2"}, {[]api.Part{{Kind: api.PVar, Name: "one", Op: ":%"}}, "!2"},
+		{[]api.Part{{Kind: api.PVar, Name: "one", Op: ":L"}}, "!2"}, {[]api.Part{{Kind: api.PVar, Name: "one", Op: "/"}}, "!2"},
+		{[]api.Part{{Kind: api.PVar, Name: "one", Op: "%%%"}}, "!2"}, {[]api.Part{{Kind: api.PVar, Name: "one", Op: "::-"}}, "!2"},
+		{[]api.Part{{Kind: api.PVar, Name: "no name", Op: "-", Word: []api.Part{{Kind: api.PText, Text: "x"}}}}, "x"},
+		{[]api.Part{{Kind: api.PVar, Name: "no name", Op: "="}}, "!1"}, {[]api.Part{{Kind: api.PVar}}, ""},
+		{[]api.Part{{Kind: api.PVar, Name: "zero", Op: "=", Word: []api.Part{{Kind: api.PText, Text: "\x00"}}}}, "!1"},
+		{[]api.Part{{Kind: api.PVar, Name: "", Op: "?"}}, "!16"},
 	} {
 		l, err := New(fresh(t), nil, 0).Word(x.w)
 		got := told(l)
@@ -160,7 +192,8 @@ func TestOddParts(t *testing.T) {
 func TestAssign(t *testing.T) {
 	v := fresh(t)
 	s := New(v, nil, 0)
-	for _, x := range [][3]string{{"${a=x}", "a", "x"}, {"${a=y}", "a", "x"}, {"${e=x}", "e", ""}, {"${e:=x$one'y'}", "e", "x1y"}, {"${b:=${c=z}}", "c", "z"}, {"$b", "b", "z"}, {"${d=''}", "d", ""}, {"\"${g=a b}\"", "g", "a b"}} {
+	for _, x := range [][3]string{{"${a=x}", "a", "x"}, {"${a=y}", "a", "x"}, {"${e=x}", "e", ""}, {"${e:=x$one'y'}", "e", "x1y"},
+		{"${b:=${c=z}}", "c", "z"}, {"$b", "b", "z"}, {"${d=''}", "d", ""}, {"\"${g=a b}\"", "g", "a b"}} {
 		if _, err := s.Word(parse(t, x[0])); err != api.OK {
 			t.Errorf("P1302: Word(%q): error %d", x[0], err)
 		}
@@ -204,7 +237,8 @@ func TestText(t *testing.T) {
 
 func TestFailed(t *testing.T) {
 	s := New(fresh(t), nil, 0)
-	for _, x := range [][2]string{{"a", ""}, {"${none?m}", "none"}, {"$one", "none"}, {"$((1/0))", "none"}, {"${e:?}", "e"}, {"${one?}${7?}", "7"}, {"${a=${b?}}", "b"}} {
+	for _, x := range [][2]string{{"a", ""}, {"${none?m}", "none"}, {"$one", "none"}, {"$((1/0))", "none"}, {"${e:?}", "e"},
+		{"${one?}${7?}", "7"}, {"${a=${b?}}", "b"}} {
 		if s.Word(parse(t, x[0])); s.Failed() != x[1] {
 			t.Errorf("P1303: after %q, Failed is %q", x[0], s.Failed())
 		}

@@ -38,9 +38,15 @@ func TestSplit(t *testing.T) {
 		l    []api.Part
 		want string
 	}{
-		{nil, ""}, {[]api.Part{text("")}, ""}, {[]api.Part{text(" \t\n")}, ""}, {[]api.Part{text("a b")}, "[a.][b.]"}, {[]api.Part{text(" a\t\nb ")}, "[a.][b.]"}, {[]api.Part{text("a\rb\v")}, "[a\rb\v.]"},
-		{[]api.Part{quote("")}, "[''.]"}, {[]api.Part{quote("a b")}, "['a b'.]"}, {[]api.Part{text("a"), quote("b c"), text("d e")}, "[a.'b c'.d.][e.]"}, {[]api.Part{text("a "), quote("b")}, "[a.]['b'.]"}, {[]api.Part{quote("a"), text(" "), quote("")}, "['a'.][''.]"}, {[]api.Part{text("a"), text("b")}, "[a.b.]"}, {[]api.Part{text("a"), text(""), text(" "), text("b")}, "[a.][b.]"}, {[]api.Part{text(" "), quote(""), text(" ")}, "[''.]"}, {[]api.Part{quote(""), quote("")}, "[''.''.]"},
-		{[]api.Part{text("a"), {Kind: api.PSub, Text: "b c"}, {Kind: 0, Text: " "}, text("d")}, "[a.'b c'.' '.d.]"}, {[]api.Part{{Kind: api.PVar}}, "[''.]"},
+		{nil, ""}, {[]api.Part{text("")}, ""}, {[]api.Part{text(" \t\n")}, ""}, {[]api.Part{text("a b")}, "[a.][b.]"},
+		{[]api.Part{text(" a\t\nb ")}, "[a.][b.]"}, {[]api.Part{text("a\rb\v")}, "[a\rb\v.]"},
+		{[]api.Part{quote("")}, "[''.]"}, {[]api.Part{quote("a b")}, "['a b'.]"},
+		{[]api.Part{text("a"), quote("b c"), text("d e")}, "[a.'b c'.d.][e.]"}, {[]api.Part{text("a "), quote("b")}, "[a.]['b'.]"},
+		{[]api.Part{quote("a"), text(" "), quote("")}, "['a'.][''.]"}, {[]api.Part{text("a"), text("b")}, "[a.b.]"},
+		{[]api.Part{text("a"), text(""), text(" "), text("b")}, "[a.][b.]"}, {[]api.Part{text(" "), quote(""), text(" ")}, "[''.]"},
+		{[]api.Part{quote(""), quote("")}, "[''.''.]"},
+		{[]api.Part{text("a"), {Kind: api.PSub, Text: "b c"}, {Kind: 0, Text: " "}, text("d")}, "[a.'b c'.' '.d.]"},
+		{[]api.Part{{Kind: api.PVar}}, "[''.]"},
 	} {
 		if got := told(Split(x.l)); got != x.want {
 			t.Errorf("P1201: %d: %s, not %s", i, got, x.want)
@@ -53,7 +59,8 @@ func TestTextAndPattern(t *testing.T) {
 		l             []api.Part
 		text, pattern string
 	}{
-		{nil, "", ""}, {[]api.Part{text("a*"), quote("b*")}, "a*b*", `a*b\*`}, {[]api.Part{quote(`?[\`), text(`?[\`)}, `?[\?[\`, `\?\[\\?[\`}, {[]api.Part{{Kind: api.PCalc, Text: "*"}, {Kind: 77, Text: "?"}}, "*?", `\*\?`}, {[]api.Part{quote(""), text("")}, "", ""},
+		{nil, "", ""}, {[]api.Part{text("a*"), quote("b*")}, "a*b*", `a*b\*`}, {[]api.Part{quote(`?[\`), text(`?[\`)}, `?[\?[\`, `\?\[\\?[\`},
+		{[]api.Part{{Kind: api.PCalc, Text: "*"}, {Kind: 77, Text: "?"}}, "*?", `\*\?`}, {[]api.Part{quote(""), text("")}, "", ""},
 	} {
 		if Text(x.l) != x.text || Pattern(x.l) != x.pattern {
 			t.Errorf("P1201: %d: %q, %q", i, Text(x.l), Pattern(x.l))
@@ -84,10 +91,25 @@ func TestPaths(t *testing.T) {
 		l    []api.Part
 		want string
 	}{
-		{"/", []api.Part{text("*.c")}, "a.c b.c"}, {"/", []api.Part{text("*.z")}, "*.z"}, {"/", []api.Part{text("*.z"), quote("*")}, "*.z*"}, {"/", []api.Part{quote("*.c")}, "*.c"}, {"/", []api.Part{quote("*"), text("*")}, "*"}, {"/", []api.Part{text("a.c")}, "a.c"}, {"/", []api.Part{text("none")}, "none"}, {"/", []api.Part{text(`\*.c`)}, "*.c"}, {"/", nil, ""}, {"/", []api.Part{quote("")}, ""}, {"/", []api.Part{text("a//b/")}, "a//b/"}, {"/", []api.Part{text("[x")}, "[x"},
-		{"/d", []api.Part{text("*")}, "a.c e"}, {"d", []api.Part{text("*")}, "a.c e"}, {"/d", []api.Part{text("/*.c")}, "/a.c /b.c"}, {"/d", []api.Part{text(".*")}, ".y"}, {"/", []api.Part{text(".*")}, ".x"}, {"/", []api.Part{quote("."), text("*")}, ".x"}, {"/d", []api.Part{text("../*.h")}, "../c.h"}, {"/d", []api.Part{text(`\.\./*.h`)}, "../c.h"}, {"/d/e", []api.Part{text("./../*.c")}, "./../a.c"}, {"/", []api.Part{text("../*.h")}, "../c.h"},
-		{"/", []api.Part{text("*/a.c")}, "d/a.c g/a.c"}, {"/", []api.Part{text("*/*")}, "d!/z d/a.c d/e g/a.c"}, {"/", []api.Part{text("*/")}, "* a.c b.c c.h d d! g"}, {"/", []api.Part{text("/*//*/")}, "/d!/z /d/a.c /d/e /g/a.c"}, {"/", []api.Part{text("d/*/f.c")}, "d/e/f.c"}, {"/", []api.Part{text("*/e/*")}, "d/e/f.c"}, {"/", []api.Part{text("*/.")}, "d!/. d/. g/."}, {"/", []api.Part{text("*/..")}, "d!/.. d/.. g/.."}, {"/", []api.Part{text("d/*/..")}, "d/e/.."}, {"/", []api.Part{text("d/*/../a*")}, "d/e/../a.c"}, {"/", []api.Part{text("[d-g]/*.c")}, "d/a.c g/a.c"}, {"/", []api.Part{text("[d"), quote("/"), text("]*")}, "[d/]*"}, {"/", []api.Part{text("?"), quote("/a.c")}, "d/a.c g/a.c"},
-		{"/none", []api.Part{text("*")}, "*"}, {"/none", []api.Part{text("./*")}, "./*"}, {"/none", []api.Part{text("../*.h")}, "../c.h"}, {"/a.c", []api.Part{text("*")}, "*"}, {"/none", []api.Part{text("/*.h")}, "/c.h"}, {"", []api.Part{text("*.h")}, "*.h"}, {"", []api.Part{text("/*.h")}, "/c.h"}, {"\x00", []api.Part{text("*.h"), quote("*")}, "*.h*"}, {strings.Repeat("n", 61), []api.Part{text("*.h")}, "*.h"}, {"/", []api.Part{text("a.c/*")}, "a.c/*"}, {"/", []api.Part{{Kind: api.PSub, Text: "*"}, text("?")}, "*?"},
+		{"/", []api.Part{text("*.c")}, "a.c b.c"}, {"/", []api.Part{text("*.z")}, "*.z"}, {"/", []api.Part{text("*.z"), quote("*")}, "*.z*"},
+		{"/", []api.Part{quote("*.c")}, "*.c"}, {"/", []api.Part{quote("*"), text("*")}, "*"}, {"/", []api.Part{text("a.c")}, "a.c"},
+		{"/", []api.Part{text("none")}, "none"}, {"/", []api.Part{text(`\*.c`)}, "*.c"}, {"/", nil, ""}, {"/", []api.Part{quote("")}, ""},
+		{"/", []api.Part{text("a//b/")}, "a//b/"}, {"/", []api.Part{text("[x")}, "[x"},
+		{"/d", []api.Part{text("*")}, "a.c e"}, {"d", []api.Part{text("*")}, "a.c e"}, {"/d", []api.Part{text("/*.c")}, "/a.c /b.c"},
+		{"/d", []api.Part{text(".*")}, ".y"}, {"/", []api.Part{text(".*")}, ".x"}, {"/", []api.Part{quote("."), text("*")}, ".x"},
+		{"/d", []api.Part{text("../*.h")}, "../c.h"}, {"/d", []api.Part{text(`\.\./*.h`)}, "../c.h"},
+		{"/d/e", []api.Part{text("./../*.c")}, "./../a.c"}, {"/", []api.Part{text("../*.h")}, "../c.h"},
+		{"/", []api.Part{text("*/a.c")}, "d/a.c g/a.c"}, {"/", []api.Part{text("*/*")}, "d!/z d/a.c d/e g/a.c"},
+		{"/", []api.Part{text("*/")}, "* a.c b.c c.h d d! g"}, {"/", []api.Part{text("/*//*/")}, "/d!/z /d/a.c /d/e /g/a.c"},
+		{"/", []api.Part{text("d/*/f.c")}, "d/e/f.c"}, {"/", []api.Part{text("*/e/*")}, "d/e/f.c"}, {"/", []api.Part{text("*/.")}, "d!/. d/. g/."},
+		{"/", []api.Part{text("*/..")}, "d!/.. d/.. g/.."}, {"/", []api.Part{text("d/*/..")}, "d/e/.."},
+		{"/", []api.Part{text("d/*/../a*")}, "d/e/../a.c"}, {"/", []api.Part{text("[d-g]/*.c")}, "d/a.c g/a.c"},
+		{"/", []api.Part{text("[d"), quote("/"), text("]*")}, "[d/]*"}, {"/", []api.Part{text("?"), quote("/a.c")}, "d/a.c g/a.c"},
+		{"/none", []api.Part{text("*")}, "*"}, {"/none", []api.Part{text("./*")}, "./*"}, {"/none", []api.Part{text("../*.h")}, "../c.h"},
+		{"/a.c", []api.Part{text("*")}, "*"}, {"/none", []api.Part{text("/*.h")}, "/c.h"}, {"", []api.Part{text("*.h")}, "*.h"},
+		{"", []api.Part{text("/*.h")}, "/c.h"}, {"\x00", []api.Part{text("*.h"), quote("*")}, "*.h*"},
+		{strings.Repeat("n", 61), []api.Part{text("*.h")}, "*.h"}, {"/", []api.Part{text("a.c/*")}, "a.c/*"},
+		{"/", []api.Part{{Kind: api.PSub, Text: "*"}, text("?")}, "*?"},
 	} {
 		got := strings.Join(Paths(f, x.cwd, x.l), " ")
 		if got != x.want {

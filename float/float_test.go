@@ -31,7 +31,9 @@ func TestOf(t *testing.T) {
 			t.Errorf("P501: Of(%q) = %x, %v", s, got, ok)
 		}
 	}
-	for _, s := range []string{"", "+", "-", "1.5", "1e3", " 1", "1 ", "--1", "+-1", "1000000000000000", "0000000000000001", "0x", "0x3fe000000000000", "0x3fe00000000000000", "0X3fe0000000000000", "0x3FE0000000000000", "-0x3fe0000000000000", "0x3fe000000000000g", "0x+fe0000000000000", "Inf", "NaN", "infinity", "in", "1_0", "0x_fe0000000000000"} {
+	for _, s := range []string{"", "+", "-", "1.5", "1e3", " 1", "1 ", "--1", "+-1", "1000000000000000", "0000000000000001", "0x",
+		"0x3fe000000000000", "0x3fe00000000000000", "0X3fe0000000000000", "0x3FE0000000000000", "-0x3fe0000000000000", "0x3fe000000000000g",
+		"0x+fe0000000000000", "Inf", "NaN", "infinity", "in", "1_0", "0x_fe0000000000000"} {
 		if got, ok := Of(s); ok || got != 0 {
 			t.Errorf("P501: Of(%q) = %x, %v", s, got, ok)
 		}
@@ -71,8 +73,10 @@ func TestOp(t *testing.T) {
 		{"+", negZero, negZero, negZero}, {"+", negZero, 0, 0}, {"-", 0, 0, 0}, {"*", negZero, num(5), negZero},
 		{"+", num(0.1), num(0.2), num(0.30000000000000004)}, {"/", small, num(2), 0}, {"+", small, small, 2}, {"*", num(math.MaxFloat64), num(2), posInf},
 		{"+", oneNaN, num(1), theNaN}, {"-", num(1), negNaN, theNaN},
-		{"min", num(1), num(2), num(1)}, {"max", num(1), num(2), num(2)}, {"min", 0, negZero, negZero}, {"min", negZero, 0, negZero}, {"max", 0, negZero, 0}, {"max", negZero, 0, 0},
-		{"min", oneNaN, num(1), theNaN}, {"min", num(1), oneNaN, theNaN}, {"max", negNaN, posInf, theNaN}, {"max", posInf, negNaN, theNaN}, {"min", negInf, num(1), negInf},
+		{"min", num(1), num(2), num(1)}, {"max", num(1), num(2), num(2)}, {"min", 0, negZero, negZero}, {"min", negZero, 0, negZero},
+		{"max", 0, negZero, 0}, {"max", negZero, 0, 0},
+		{"min", oneNaN, num(1), theNaN}, {"min", num(1), oneNaN, theNaN}, {"max", negNaN, posInf, theNaN}, {"max", posInf, negNaN, theNaN},
+		{"min", negInf, num(1), negInf},
 	} {
 		if got, ok := Op(x.op, x.a, x.b); !ok || got != x.want {
 			t.Errorf("P503: %d: Op(%q, %x, %x) = %x, %v", i, x.op, x.a, x.b, got, ok)
@@ -91,8 +95,10 @@ func TestIs(t *testing.T) {
 		a, b uint64
 		want string // a digit for each of ops
 	}{
-		{num(1), num(2), "1100010"}, {num(2), num(1), "0011010"}, {num(2), num(2), "0101101"}, {negZero, 0, "0101100"}, {0, negZero, "0101100"}, {0, 0, "0101101"},
-		{theNaN, num(1), "0000010"}, {num(1), theNaN, "0000010"}, {oneNaN, negNaN, "0000011"}, {negInf, posInf, "1100010"}, {posInf, posInf, "0101101"}, {small, 0, "0011010"},
+		{num(1), num(2), "1100010"}, {num(2), num(1), "0011010"}, {num(2), num(2), "0101101"}, {negZero, 0, "0101100"}, {0, negZero, "0101100"},
+		{0, 0, "0101101"},
+		{theNaN, num(1), "0000010"}, {num(1), theNaN, "0000010"}, {oneNaN, negNaN, "0000011"}, {negInf, posInf, "1100010"},
+		{posInf, posInf, "0101101"}, {small, 0, "0011010"},
 	} {
 		got := ""
 		for _, op := range ops {

@@ -140,7 +140,8 @@ func TestNamesIsNew(t *testing.T) {
 }
 
 func TestPlain(t *testing.T) {
-	for p, want := range map[string]string{"": "", "abc": "abc", `\*a`: "*a", "[a": "[a", `a\`: `a\`, "[]": "[]", "[!]": "[!]", `\[a]`: "[a]", `[a\]`: "[a]", `\\`: `\`} {
+	for p, want := range map[string]string{"": "", "abc": "abc", `\*a`: "*a", "[a": "[a", `a\`: `a\`, "[]": "[]", "[!]": "[!]", `\[a]`: "[a]",
+		`[a\]`: "[a]", `\\`: `\`} {
 		if got, ok := Plain(p); !ok || got != want {
 			t.Errorf("P101: Plain(%q) = %q, %v", p, got, ok)
 		}

@@ -62,12 +62,21 @@ func sameWord(a, b []api.Part) bool {
 
 func TestScript(t *testing.T) {
 	for _, s := range []string{
-		"", "a", "a b 'c d' \"e$f\" \\g", "a && b || c && ! d", "! a | b | c", "a; b\nc", "x=1 y='2 3' z= a", "x=1 if", ">f if", ">f x=1 then", "2>f >>g <h 2>>i a", "{ a; b; } >f 2>g", "(a; b) <f", "((a))", "{ (a) }",
-		"if a; then b; fi", "if a; b; then c; elif d; then e; elif f; then g; else h; i; fi >x", "while a; do b; c; done <f", "until ! a; do b; done", "for x in a 'b c' $d; do e; done >f", "for x do a; done", "for x in; do a; done", "for in in in; do a; done",
-		"case a in esac", "case a in b);; (esac|c) d; e;; *) esac >f", "case '' in '') ;; ''#a|''%b) c;; esac", "f() { a; } >b", "f() (a) ; f", "f() case x in y) z; esac", "a | { b; } | (c)", "a ''#b", "''#a", "a >''#b", "x=#a ''#b", "case ''#a in (''#b) c; esac", "for x in ''#a; do b; done",
-		"$", "a $ b", "$%", "$\\\na", "$''a", "$\\\n{a}", "$$a", "\"$\"a", "$'a'", "a$", "echo a$ | b", "a\\\nb", "'a\nb'", "'\\'", `\'`, `"'"`, `a'b'"c"d`, "''", "a '' b", "x=''", "2 >f", "'2'>f", "2\\\n>f", "a 2", "x=1 2",
-		"${a}", "${#a}", "${#}", "${##}", "${###}", "${##''#}", "${a#''#}", `${a#\#}`, "${a%''%b}", "${a##''#}", "${a%%%}", "${#-x}", "${a:-b c;d|e#f}", "${a-'}'}", `${a-\}}`, `${a="b"c$d}`, "${a?}", "${a:?''}", "${1}2", "$12", "${12}", "${@}$*$#$?", "${#@}", "${a-$}", "${a-$''b}", "${a-${b-${c}}}", "${a-\n}",
-		`"${a}"`, `"${a-b'c}"`, `"${a-\}\"\'\$\\}"`, "\"${a-`}\"", "\"${a-\\`}\"", `"${a#\#}"`, `"${a%\%}"`, `"${a#\\#}"`, "\"${a-b\nc}\"", `"${a-${b-$c}$((d))$(e)}"`, `"${a- b;c}"`, `"${a-$}"`, "\"${a-$\\\nb}\"", `"a$b$c"d`, `"$a""$b"`, `"$a"'b'$c`, "\"\\\n\"", `"x$((1))y"`, `"#"`, `"a${b##x}"`, "\"${a-\\\\\n}\"",
+		"", "a", "a b 'c d' \"e$f\" \\g", "a && b || c && ! d", "! a | b | c", "a; b\nc", "x=1 y='2 3' z= a", "x=1 if", ">f if", ">f x=1 then",
+		"2>f >>g <h 2>>i a", "{ a; b; } >f 2>g", "(a; b) <f", "((a))", "{ (a) }",
+		"if a; then b; fi", "if a; b; then c; elif d; then e; elif f; then g; else h; i; fi >x", "while a; do b; c; done <f",
+		"until ! a; do b; done", "for x in a 'b c' $d; do e; done >f", "for x do a; done", "for x in; do a; done", "for in in in; do a; done",
+		"case a in esac", "case a in b);; (esac|c) d; e;; *) esac >f", "case '' in '') ;; ''#a|''%b) c;; esac", "f() { a; } >b", "f() (a) ; f",
+		"f() case x in y) z; esac", "a | { b; } | (c)", "a ''#b", "''#a", "a >''#b", "x=#a ''#b", "case ''#a in (''#b) c; esac",
+		"for x in ''#a; do b; done",
+		"$", "a $ b", "$%", "$\\\na", "$''a", "$\\\n{a}", "$$a", "\"$\"a", "$'a'", "a$", "echo a$ | b", "a\\\nb", "'a\nb'", "'\\'", `\'`, `"'"`,
+		`a'b'"c"d`, "''", "a '' b", "x=''", "2 >f", "'2'>f", "2\\\n>f", "a 2", "x=1 2",
+		"${a}", "${#a}", "${#}", "${##}", "${###}", "${##''#}", "${a#''#}", `${a#\#}`, "${a%''%b}", "${a##''#}", "${a%%%}", "${#-x}",
+		"${a:-b c;d|e#f}", "${a-'}'}", `${a-\}}`, `${a="b"c$d}`, "${a?}", "${a:?''}", "${1}2", "$12", "${12}", "${@}$*$#$?", "${#@}", "${a-$}",
+		"${a-$''b}", "${a-${b-${c}}}", "${a-\n}",
+		`"${a}"`, `"${a-b'c}"`, `"${a-\}\"\'\$\\}"`, "\"${a-`}\"", "\"${a-\\`}\"", `"${a#\#}"`, `"${a%\%}"`, `"${a#\\#}"`, "\"${a-b\nc}\"",
+		`"${a-${b-$c}$((d))$(e)}"`, `"${a- b;c}"`, `"${a-$}"`, "\"${a-$\\\nb}\"", `"a$b$c"d`, `"$a""$b"`, `"$a"'b'$c`, "\"\\\n\"", `"x$((1))y"`, `"#"`,
+		`"a${b##x}"`, "\"${a-\\\\\n}\"",
 		"$((1 + 2))", "$(((1)))", "$(a; b)", "$()", "$(a ')' \")\")", "$( (a))", "$(\\\n(a))", "\"$(a \"b\")\"",
 	} {
 		if _, err := parse.Script(s); err != api.OK && s != "\"${a-`}\"" {
@@ -108,7 +117,8 @@ func TestDrawn(t *testing.T) {
 		back(t, string(b))
 		backWord(t, string(b))
 	}
-	pieces := []string{"a", "x=1", "x=''", "''#b", "if a;then", "elif", "else", "fi", "while a;do", "done", "for x in", "do", "case a in", "b)", "esac", "{", "}", "!", ";", "\n", "&&", "||", "|", "(", ")", ";;", ">f", "2>>'g h'", "$(b)", "f()", `"${a-'b}"`, "$", "2"}
+	pieces := []string{"a", "x=1", "x=''", "''#b", "if a;then", "elif", "else", "fi", "while a;do", "done", "for x in", "do", "case a in", "b)",
+		"esac", "{", "}", "!", ";", "\n", "&&", "||", "|", "(", ")", ";;", ">f", "2>>'g h'", "$(b)", "f()", `"${a-'b}"`, "$", "2"}
 	for range 200000 {
 		var l []string
 		for range r.Intn(11) {
@@ -119,7 +129,11 @@ func TestDrawn(t *testing.T) {
 }
 
 func TestSame(t *testing.T) {
-	scripts := []string{"", "a", "b", "a b", "'a'", "x=a", "x=b", "y=a", "x=a y=a", "a >f", "a >g", "a >>f", "a >f >g", "! a", "a | b", "! a | b", "a && b", "a || b", "a; b", "a; b; c", "{ a; }", "(a)", "f() { a; }", "g() { a; }", "f() (a)", "if a; then b; fi", "if a; then b; else c; fi", "while a; do b; done", "until a; do b; done", "for x in a; do b; done", "for y in a; do b; done", "for x do b; done", "case a in esac", "case a in b) ;; esac", "case a in b) c;; esac", "case a in b|c) c;; esac", "case a in c) c;; esac", "case b in b) c;; esac", "$a", `"$a"`, "${a-}", "${a-b}", "${a-c}", "${a:-b}", "${b-b}", "$((a))", "$(a)", "$(b)", "{ a; } >f", "''", "a ''"}
+	scripts := []string{"", "a", "b", "a b", "'a'", "x=a", "x=b", "y=a", "x=a y=a", "a >f", "a >g", "a >>f", "a >f >g", "! a", "a | b", "! a | b",
+		"a && b", "a || b", "a; b", "a; b; c", "{ a; }", "(a)", "f() { a; }", "g() { a; }", "f() (a)", "if a; then b; fi", "if a; then b; else c; fi",
+		"while a; do b; done", "until a; do b; done", "for x in a; do b; done", "for y in a; do b; done", "for x do b; done", "case a in esac",
+		"case a in b) ;; esac", "case a in b) c;; esac", "case a in b|c) c;; esac", "case a in c) c;; esac", "case b in b) c;; esac", "$a", `"$a"`,
+		"${a-}", "${a-b}", "${a-c}", "${a:-b}", "${b-b}", "$((a))", "$(a)", "$(b)", "{ a; } >f", "''", "a ''"}
 	for i, x := range scripts {
 		for j, y := range scripts {
 			a, err := parse.Script(x)
@@ -132,8 +146,10 @@ func TestSame(t *testing.T) {
 			}
 		}
 	}
-	a := []api.Node{{Kind: api.CFor, Words: [][]api.Part{}, Kids: []api.Node{{Kind: api.CCase, Arms: []api.Arm{{Pats: [][]api.Part{nil}, Body: []api.Node{}}}}}}}
-	b := []api.Node{{Kind: api.CFor, Assigns: []api.Assign{}, Redirs: []api.Redir{}, Kids: []api.Node{{Kind: api.CCase, Arms: []api.Arm{{Pats: [][]api.Part{{}}}}}}}}
+	a := []api.Node{{Kind: api.CFor, Words: [][]api.Part{},
+		Kids: []api.Node{{Kind: api.CCase, Arms: []api.Arm{{Pats: [][]api.Part{nil}, Body: []api.Node{}}}}}}}
+	b := []api.Node{{Kind: api.CFor, Assigns: []api.Assign{}, Redirs: []api.Redir{},
+		Kids: []api.Node{{Kind: api.CCase, Arms: []api.Arm{{Pats: [][]api.Part{{}}}}}}}}
 	if !Same(a, b) || Script(a) != Script(b) || !Same(nil, []api.Node{}) || Same(nil, []api.Node{{}}) || Same([]api.Node{{}}, []api.Node{{}, {}}) {
 		t.Error("P1001: nil and empty lists")
 	}

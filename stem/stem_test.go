@@ -11,7 +11,8 @@ func TestMatch(t *testing.T) {
 		ok         bool
 	}{
 		{"%.o", "a.o", "a", true}, {"%.o", ".o", "", false}, {"%.o", "a.c", "", false}, {"a%", "a", "", false}, {"a%", "ab", "b", true},
-		{"%", "x/y", "x/y", true}, {"%", "", "", false}, {"a%a", "aa", "", false}, {"a%a", "a", "", false}, {"a%a", "aba", "b", true}, {"ab%ba", "aba", "", false},
+		{"%", "x/y", "x/y", true}, {"%", "", "", false}, {"a%a", "aa", "", false}, {"a%a", "a", "", false}, {"a%a", "aba", "b", true},
+		{"ab%ba", "aba", "", false},
 		{"%%", "a%", "a", true}, {"%%", "ab", "", false}, {"a%b%", "axb%", "x", true},
 		{"a.o", "a.o", "", true}, {"a.o", "b.o", "", false}, {"", "", "", true}, {"", "a", "", false},
 	} {

@@ -11,10 +11,15 @@ import (
 func TestStrip(t *testing.T) {
 	for _, x := range []struct{ s, p, front, frontMost, back, backMost string }{
 		{"a.b.c", "*.", "b.c", "c", "a.b.c", "a.b.c"}, {"a.b.c", ".*", "a.b.c", "a.b.c", "a.b", "a"},
-		{"abc", "*", "abc", "", "abc", ""}, {"abc", "", "abc", "abc", "abc", "abc"}, {"", "*", "", "", "", ""}, {"", "a", "", "", "", ""}, {"abc", "?", "bc", "bc", "ab", "ab"}, {"abc", "abc", "", "", "", ""}, {"abc", "abcd", "abc", "abc", "abc", "abc"},
-		{"aaa", "a*a", "a", "", "a", ""}, {"/a/b/", "*/", "a/b/", "", "/a/b", ""}, {"abab", "[a-b]", "bab", "bab", "aba", "aba"}, {"a*b", `*\*`, "b", "b", "a*b", "a*b"}, {"a*b", `\**`, "a*b", "a*b", "a", "a"}, {"[x", "[", "x", "x", "[x", "[x"}, {"x\xff", "?", "\xff", "\xff", "x", "x"}, {"ab", "?*", "b", "", "a", ""}, {"abc", "b", "abc", "abc", "abc", "abc"}, {"aab", "*a", "ab", "b", "aab", "aab"}, {"baa", "a*", "baa", "baa", "ba", "b"},
+		{"abc", "*", "abc", "", "abc", ""}, {"abc", "", "abc", "abc", "abc", "abc"}, {"", "*", "", "", "", ""}, {"", "a", "", "", "", ""},
+		{"abc", "?", "bc", "bc", "ab", "ab"}, {"abc", "abc", "", "", "", ""}, {"abc", "abcd", "abc", "abc", "abc", "abc"},
+		{"aaa", "a*a", "a", "", "a", ""}, {"/a/b/", "*/", "a/b/", "", "/a/b", ""}, {"abab", "[a-b]", "bab", "bab", "aba", "aba"},
+		{"a*b", `*\*`, "b", "b", "a*b", "a*b"}, {"a*b", `\**`, "a*b", "a*b", "a", "a"}, {"[x", "[", "x", "x", "[x", "[x"},
+		{"x\xff", "?", "\xff", "\xff", "x", "x"}, {"ab", "?*", "b", "", "a", ""}, {"abc", "b", "abc", "abc", "abc", "abc"},
+		{"aab", "*a", "ab", "b", "aab", "aab"}, {"baa", "a*", "baa", "baa", "ba", "b"},
 	} {
-		if got := [4]string{Front(x.s, x.p, false), Front(x.s, x.p, true), Back(x.s, x.p, false), Back(x.s, x.p, true)}; got != [4]string{x.front, x.frontMost, x.back, x.backMost} {
+		if got := [4]string{Front(x.s, x.p, false), Front(x.s, x.p, true), Back(x.s, x.p, false), Back(x.s, x.p, true)}; got != [4]string{x.front,
+			x.frontMost, x.back, x.backMost} {
 			t.Errorf("P1101: %q, %q: %q", x.s, x.p, got)
 		}
 	}
@@ -46,7 +51,8 @@ func TestDrawn(t *testing.T) {
 				back = s[:j]
 			}
 		}
-		if got := [4]string{Front(s, p, false), Front(s, p, true), Back(s, p, false), Back(s, p, true)}; got != [4]string{front, frontMost, back, backMost} {
+		if got := [4]string{Front(s, p, false), Front(s, p, true), Back(s, p, false), Back(s, p, true)}; got != [4]string{front, frontMost, back,
+			backMost} {
 			t.Fatalf("P1101: %q, %q: %q", s, p, got)
 		}
 	}

@@ -12,7 +12,8 @@ import (
 
 func TestName(t *testing.T) {
 	long := strings.Repeat("n", api.MaxName)
-	for s, want := range map[string]bool{"a": true, "_": true, "Az_09": true, long: true, long + "n": false, "": false, "9a": false, "a-b": false, "a b": false, "a.": false, "\xe9": false, "a\x00": false, "@": false, "a\n": false} {
+	for s, want := range map[string]bool{"a": true, "_": true, "Az_09": true, long: true, long + "n": false, "": false, "9a": false, "a-b": false,
+		"a b": false, "a.": false, "\xe9": false, "a\x00": false, "@": false, "a\n": false} {
 		if Name(s) != want {
 			t.Errorf("P601: Name(%q)", s)
 		}
@@ -26,7 +27,8 @@ func TestSet(t *testing.T) {
 		name, value string
 		want        api.Errno
 	}{
-		{"1", "", api.ErrArg}, {"", "", api.ErrArg}, {"a", "\x00", api.ErrArg}, {"a", long + "\x00", api.ErrArg}, {"1", long + "x", api.ErrArg}, {"a", long + "x", api.ErrLong},
+		{"1", "", api.ErrArg}, {"", "", api.ErrArg}, {"a", "\x00", api.ErrArg}, {"a", long + "\x00", api.ErrArg}, {"1", long + "x", api.ErrArg},
+		{"a", long + "x", api.ErrLong},
 		{"a", long, 0}, {"b", "1", 0}, {"b", "2", 0}, {"c", "", 0}, {"d", "\n\xff", 0},
 	} {
 		if got := v.Set(x.name, x.value); got != x.want {

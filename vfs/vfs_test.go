@@ -85,12 +85,14 @@ func TestMostNodes(t *testing.T) {
 
 func TestKindReadList(t *testing.T) {
 	f := tree(t, New(9, 99), "/d", "/d/f=xy", "/d/b=", "/e")
-	for p, want := range map[string]int{"/": 2, "": 0, "/d": 2, "d/../d/f": 1, "/x": 0, "/x/y": 0, "/d/f/g": 0, "/a\x00": 0, "/" + strings.Repeat("n", 61): 0} {
+	for p, want := range map[string]int{"/": 2, "": 0, "/d": 2, "d/../d/f": 1, "/x": 0, "/x/y": 0, "/d/f/g": 0, "/a\x00": 0,
+		"/" + strings.Repeat("n", 61): 0} {
 		if f.Kind(p) != want {
 			t.Errorf("P401: Kind(%q) = %d", p, f.Kind(p))
 		}
 	}
-	for p, want := range map[string]api.Errno{"/": api.ErrDir, "": api.ErrArg, "/d": api.ErrDir, "/x": api.ErrNone, "/x/y": api.ErrNone, "/d/f/g": api.ErrNotDir, "/d/f/g/h": api.ErrNotDir, "/x/d/f/g": api.ErrNone, "/" + strings.Repeat("n", 61): api.ErrLong} {
+	for p, want := range map[string]api.Errno{"/": api.ErrDir, "": api.ErrArg, "/d": api.ErrDir, "/x": api.ErrNone, "/x/y": api.ErrNone,
+		"/d/f/g": api.ErrNotDir, "/d/f/g/h": api.ErrNotDir, "/x/d/f/g": api.ErrNone, "/" + strings.Repeat("n", 61): api.ErrLong} {
 		b, err := f.Read(p)
 		if is(t, "P401: Read "+p, err, want); b != nil {
 			t.Error("P401: bytes beside an error")
@@ -154,7 +156,8 @@ func TestTimes(t *testing.T) {
 
 func TestAll(t *testing.T) {
 	f := tree(t, New(9, 99), "/a", "/a/b=1", "/a!c=22", "/a.d=")
-	want := []api.Entry{{Path: "/a", Dir: true, Time: 1}, {Path: "/a!c", Data: []byte("22"), Time: 3}, {Path: "/a.d", Time: 4}, {Path: "/a/b", Data: []byte("1"), Time: 2}}
+	want := []api.Entry{{Path: "/a", Dir: true, Time: 1}, {Path: "/a!c", Data: []byte("22"), Time: 3}, {Path: "/a.d", Time: 4},
+		{Path: "/a/b", Data: []byte("1"), Time: 2}}
 	got := f.All()
 	for i := range got {
 		if len(got[i].Data) == 0 {
@@ -257,8 +260,10 @@ func TestMoveErrors(t *testing.T) {
 	}{
 		{"", long, api.ErrArg}, {"/x/y", long, api.ErrLong}, {long, "", api.ErrLong}, {"/x/y", "", api.ErrArg},
 		{"/x/y", "/b/c", api.ErrNone}, {"/b/y", "/x/c", api.ErrNotDir}, {"/x", "/b/c", api.ErrNone}, {"/", "/x/y", api.ErrArg},
-		{"/d", "/x/y", api.ErrNone}, {"/d", "/b/y", api.ErrNotDir}, {"/d", "/d/", api.OK}, {"/b", "/", api.ErrArg}, {"/d", "/d/x", api.ErrArg}, {"/d", "/d/a", api.ErrArg},
-		{"/b", "/e", api.ErrDir}, {"/d/a", "/d", api.ErrDir}, {"/e", "/b", api.ErrNotDir}, {"/e", "/d", api.ErrUsed}, {"/g/h", "/g", api.ErrUsed}, {"/", "/", api.ErrArg},
+		{"/d", "/x/y", api.ErrNone}, {"/d", "/b/y", api.ErrNotDir}, {"/d", "/d/", api.OK}, {"/b", "/", api.ErrArg}, {"/d", "/d/x", api.ErrArg},
+		{"/d", "/d/a", api.ErrArg},
+		{"/b", "/e", api.ErrDir}, {"/d/a", "/d", api.ErrDir}, {"/e", "/b", api.ErrNotDir}, {"/e", "/d", api.ErrUsed}, {"/g/h", "/g", api.ErrUsed},
+		{"/", "/", api.ErrArg},
 	} {
 		is(t, "P404: "+x.a+" to "+x.b, f.Move(x.a, x.b), x.err)
 	}
