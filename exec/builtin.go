@@ -1,7 +1,6 @@
 package exec
 
 import (
-	"slices"
 	"strconv"
 
 	"quartermaster/api"
@@ -102,7 +101,9 @@ func (s *Shell) shift(args []string) bool {
 	case n > max(len(s.args)-1, 0):
 		s.status = 1
 	case n > 0:
-		s.args = slices.Concat(s.args[:1], s.args[1+n:])
+		// Without room behind it the argument 0 is copied, and no other list
+		// of arguments changes.
+		s.args = append(s.args[:1:1], s.args[1+n:]...)
 	}
 	return true
 }

@@ -165,3 +165,22 @@ func TestQuote(t *testing.T) {
 		}
 	}
 }
+
+func TestEnds(t *testing.T) {
+	r := rand.New(rand.NewSource(3))
+	for range 50000 {
+		p, s := draw(r, `ab-]![**?\`, 7), draw(r, `ab-]![\`, 6)
+		var heads, tails []int
+		for n := range len(s) + 1 {
+			if Match(p, s[:n]) {
+				heads = append(heads, n)
+			}
+			if Match(p, s[len(s)-n:]) {
+				tails = append(tails, n)
+			}
+		}
+		if !slices.Equal(Heads(p, s), heads) || !slices.Equal(Tails(p, s), tails) {
+			t.Fatalf("P101: %q, %q: %v, %v", p, s, Heads(p, s), Tails(p, s))
+		}
+	}
+}
