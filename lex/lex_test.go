@@ -124,14 +124,51 @@ func TestBraces(t *testing.T) {
 func TestQuotedBraces(t *testing.T) {
 	for s, want := range map[string]string{
 		`"${a}"`: `v"<a>`, `"${#a}"`: `v"<a L>`, `"${a-b c}"`: `v"<a - q<b c>>`, `"${a-'b'}"`: `v"<a - q<'b'>>`, `"${a-'}"`: `v"<a - q<'>>`,
-		`"${a-"b"}"`: "!2", `"${a-\"b\"}"`: `v"<a - q<"b">>`, `"${a-\}}"`: `v"<a - q<}>>`, `"${a-\x\'}"`: `v"<a - q<x'>>`,
+		`"${a-"b"}"`: "!2", `"${a-\"b\"}"`: `v"<a - q<"b">>`, `"${a-\}}"`: `v"<a - q<\>> q<}>`, `"${a-\x\'}"`: `v"<a - q<\x\'>>`,
 		"\"${a-b\\\nc}\"": `v"<a - q<bc>>`,
 		`"${a-$}"`:        `v"<a - q<$>>`, `"${a-$b$1}"`: `v"<a - v"<b> v"<1>>`, `"${a-${b-'c'}}"`: `v"<a - v"<b - q<'c'>>>`, "\"${a-`}\"": "!2",
 		"\"${a-\\`}\"": "v\"<a - q<`>>", `"${a-$(b "c")}"`: `v"<a - s"<b "c">>`, `"${a-$((1))}"`: `v"<a - c"<1>>`, `"${a-}"`: `v"<a - >`,
-		`"x${a%y}z"`: `q<x> v"<a % q<y>> q<z>`, `"${a-b"`: "!2", `"${a#\#}"`: `v"<a # q<#>>`, "\"${a-b\nc}\"": "v\"<a - q<b\nc>>",
+		`"x${a%y}z"`: `q<x> v"<a % q<y>> q<z>`, `"${a-b"`: "!2", `"${a#\#}"`: `v"<a # q<\#>>`, "\"${a-b\nc}\"": "v\"<a - q<b\nc>>",
 		`${a-"${b-"c"}"}`: "!2", `${a-"${b-'c'}"'d'}`: `v<a - v"<b - q<'c'>> q<d>>`, `"${a-\\}"`: `v"<a - q<\>>`, `"${a-\$b}"`: `v"<a - q<$b>>`,
 	} {
 		checkWord(t, s, want)
+	}
+}
+
+// Between " a \ is itself before most bytes, also in a ${ that stands there.
+func TestQuotedBackslash(t *testing.T) {
+	for s, want := range map[string]string{
+		`"${x:-\}"`: `v"<x :- q<\>>`, `"${x:-\a}"`: `v"<x :- q<\a>>`, `"${x:-\}}"`: `v"<x :- q<\>> q<}>`, `"${x:-a\}b"`: `v"<x :- q<a\>> q<b>`,
+		`"${x:-\ \;\*}"`: `v"<x :- q<\ \;\*>>`, `"${x:-\{}"`: `v"<x :- q<\{>>`, `"${x:-\'}"`: `v"<x :- q<\'>>`, `"${x%\%}"`: `v"<x % q<\%>>`,
+		`"${x:-\\}"`: `v"<x :- q<\>>`, `"${x:-\\}}"`: `v"<x :- q<\>> q<}>`, `"${x:-\\\}"`: `v"<x :- q<\\>>`, `"${x:-\\a}"`: `v"<x :- q<\a>>`,
+		`"${x:-\"}"`: `v"<x :- q<">>`, `"${x:-\\"}"`: "!2", "\"${x:-\\`}\"": "v\"<x :- q<`>>", "\"${x:-\\\\`}\"": "!2",
+		`"${x:-\${y}"`: `v"<x :- q<${y>>`, `"${x:-\\$y}"`: `v"<x :- q<\> v"<y>>`, `"${x:-\a$y\b}"`: `v"<x :- q<\a> v"<y> q<\b>>`,
+		"\"${x:-\\\n}\"": `v"<x :- >`, "\"${x#\\\n#}\"": `v"<x # q<#>>`, "\"${x:-\\\\\n}\"": "v\"<x :- q<\\\n>>",
+		`"${x:-${y:-\}}"`: `v"<x :- v"<y :- q<\>>>`, `"${x:-${y:-\}}}"`: `v"<x :- v"<y :- q<\>>> q<}>`, `"${x:-$(\))\}"`: `v"<x :- s"<\)> q<\>>`,
+		`${x:-"\}"}`: `v<x :- q<\}>>`, `${x:-"${y:-\}"\}}`: `v<x :- v"<y :- q<\>> q<}>>`, `${x:-${y:-\}}}`: `v<x :- v<y :- q<}>>>`,
+		`"${x:-\"`: "!2", `"${x:-\`: "!2", `"${x:-\}`: "!2",
+	} {
+		checkWord(t, s, want)
+	}
+}
+
+// What stands in a ${ between " is read as what stands between " by itself.
+func TestQuotedAlike(t *testing.T) {
+	pieces := []string{`\\`, `\"`, `\$`, "\\`", "\\\n", `\a`, `\'`, `\ `, `\#`, "'", "#", "%", " ", ";", "a", "$y", "${y%\\}", "$ "}
+	r := rand.New(rand.NewSource(802))
+	for range 50000 {
+		s := ""
+		for range r.Intn(7) {
+			s += pieces[r.Intn(len(pieces))]
+		}
+		plain, err := Word(`"` + s + `"`)
+		if err != api.OK {
+			t.Fatalf("P802: Word of %q between quotes: error %d", s, err)
+		}
+		if told(plain) == "q<>" {
+			plain = nil
+		}
+		checkWord(t, `"${x-`+s+`}"`, told([]api.Part{{Kind: api.PVar, Name: "x", Op: "-", Word: plain, Quoted: true}}))
 	}
 }
 

@@ -6,17 +6,27 @@ import (
 	"quartermaster/api"
 )
 
-// Where a word ends.
+// Where a word, or what stands between ", ends.
 const (
 	atEnd       = iota // of the script
 	atSeparator        // or at the end
 	atBrace            // at the } that closes a ${
+	atQuote            // at the " that closes it
 )
 
-// word reads a word up to its end. quoted: it stands between " within a ${;
-// depth: how many ${ are around it.
+// word reads a word up to its end. quoted: it stands in a ${ between "; depth:
+// how many ${ are around it.
 func (r *reader) word(end int, quoted bool, depth int) ([]api.Part, api.Errno) {
 	var p parts
+	if err := r.read(&p, end, quoted, depth); err != api.OK {
+		return nil, err
+	}
+	return p.all(), api.OK
+}
+
+// read reads up to an end, which it leaves to the caller. What is quoted has
+// the same rules directly between " and in a ${ there.
+func (r *reader) read(p *parts, end int, quoted bool, depth int) api.Errno {
 	kind := api.PText
 	if quoted {
 		kind = api.PQuote
@@ -26,16 +36,16 @@ bytes:
 	for r.at < len(r.s) && err == api.OK {
 		c := r.s[r.at]
 		switch {
-		case end == atSeparator && separates(c), end == atBrace && c == '}':
+		case ends(end, c):
 			break bytes
 		case c == '\\':
-			r.escape(&p)
+			r.escape(p, quoted)
 		case c == '\'' && !quoted:
-			err = r.single(&p)
+			err = r.single(p)
 		case c == '"' && !quoted:
-			err = r.double(&p, depth)
+			err = r.double(p, depth)
 		case c == '$':
-			err = r.dollar(&p, quoted, depth)
+			err = r.dollar(p, quoted, depth)
 		case c == '"', c == '`':
 			err = api.ErrSyntax
 		default:
@@ -43,15 +53,29 @@ bytes:
 			r.at++
 		}
 	}
-	if err != api.OK {
-		return nil, err
-	}
-	return p.all(), api.OK
+	return err
 }
 
-// escape reads a \ and the byte after it.
-func (r *reader) escape(p *parts) {
+// ends reports whether c is what an end is at.
+func ends(end int, c byte) bool {
+	switch end {
+	case atSeparator:
+		return separates(c)
+	case atBrace:
+		return c == '}'
+	case atQuote:
+		return c == '"'
+	}
+	return false
+}
+
+// escape reads a \ and the byte after it, unless the \ is itself: what is
+// quoted has few bytes that a \ does anything to.
+func (r *reader) escape(p *parts, quoted bool) {
 	next := r.s[r.at+1 : min(r.at+2, len(r.s))]
+	if quoted && !strings.Contains("$\"\\`\n", next) {
+		next = ""
+	}
 	r.at += 1 + len(next)
 	switch next {
 	case "":
@@ -78,24 +102,12 @@ func (r *reader) single(p *parts) api.Errno {
 func (r *reader) double(p *parts, depth int) api.Errno {
 	p.quotes = true
 	r.at++
-	for r.at < len(r.s) {
-		c, next := r.s[r.at], r.s[r.at+1:]
-		switch {
-		case c == '"':
-			r.at++
-			return api.OK
-		case c == '`':
-			return api.ErrSyntax
-		case c == '$':
-			if err := r.dollar(p, true, depth); err != api.OK {
-				return err
-			}
-		case c == '\\' && next != "" && strings.IndexByte("$\"\\`\n", next[0]) >= 0:
-			r.escape(p)
-		default:
-			p.put(api.PQuote, r.s[r.at:r.at+1])
-			r.at++
-		}
+	if err := r.read(p, atQuote, true, depth); err != api.OK {
+		return err
 	}
-	return api.ErrSyntax
+	if r.rest() == "" {
+		return api.ErrSyntax
+	}
+	r.at++
+	return api.OK
 }

@@ -8,11 +8,7 @@ import (
 
 // word writes the parts of a word. quoted: it stands in a ${ between ".
 func (p *printer) word(w []api.Part, quoted bool) {
-	if !quoted && len(w) > 0 && w[0].Kind == api.PText && (strings.HasPrefix(w[0].Text, "#") || strings.HasPrefix(w[0].Text, "%")) {
-		// Without the quotes a # would begin a remark, and a # or a % might
-		// lengthen the operator before it.
-		p.put("''")
-	}
+	p.apart(w, quoted)
 	for _, x := range w {
 		if !p.enter() {
 			return
@@ -36,10 +32,24 @@ func (p *printer) word(w []api.Part, quoted bool) {
 	}
 }
 
-// escaped writes bytes within a ${ between ", where there are no quotes.
+// apart writes something that stands for nothing before a # or a % that a
+// word begins with: a # might begin a remark, and both might lengthen the
+// operator before them.
+func (p *printer) apart(w []api.Part, quoted bool) {
+	plain, nothing := api.PText, "''"
+	if quoted {
+		plain, nothing = api.PQuote, "\\\n"
+	}
+	if len(w) > 0 && w[0].Kind == plain && (strings.HasPrefix(w[0].Text, "#") || strings.HasPrefix(w[0].Text, "%")) {
+		p.put(nothing)
+	}
+}
+
+// escaped writes bytes within a ${ between ", where a \ before any other byte
+// than these would be itself.
 func (p *printer) escaped(s string) {
 	for i := range len(s) {
-		if strings.IndexByte("\\$\"'`}#%", s[i]) >= 0 {
+		if strings.IndexByte("\\$\"`", s[i]) >= 0 {
 			p.put(`\`)
 		}
 		p.put(s[i : i+1])
